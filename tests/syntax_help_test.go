@@ -8,6 +8,7 @@ import (
 	"slices"
 	"strings"
 	"testing"
+	"unsafe"
 
 	"loop.example/s15618/impl"
 )
@@ -114,6 +115,37 @@ func wantApart(t *testing.T, values ...any) {
 }
 
 var tokenPattern = regexp.MustCompile(`[ \n]|#[^\n]*|([a-z][a-z0-9_]*)|([0-9]+)|(->|[;:=?{}(),.+<])|(?s:.)`)
+
+// textsIn are all texts in a value that are not empty.
+func textsIn(v reflect.Value) []string {
+	var out []string
+	switch v.Kind() {
+	case reflect.String:
+		if v.Len() > 0 {
+			out = append(out, v.String())
+		}
+	case reflect.Struct:
+		for i := range v.NumField() {
+			out = append(out, textsIn(v.Field(i))...)
+		}
+	case reflect.Slice:
+		for i := range v.Len() {
+			out = append(out, textsIn(v.Index(i))...)
+		}
+	}
+	return out
+}
+
+// wantNewTexts looks whether a text in the answer is a piece of the argument.
+func wantNewTexts(t *testing.T, argument string, answer any) {
+	t.Helper()
+	from := uintptr(unsafe.Pointer(unsafe.StringData(argument)))
+	for _, text := range textsIn(reflect.ValueOf(answer)) {
+		if at := uintptr(unsafe.Pointer(unsafe.StringData(text))); at >= from && at < from+uintptr(len(argument)) {
+			t.Fatalf("the text %q shares memory with the argument", text)
+		}
+	}
+}
 
 // plainTokens cuts a text by a pattern that says what a token is.
 func plainTokens(text string) []impl.Token {

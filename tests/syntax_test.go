@@ -443,6 +443,8 @@ func TestParsedListsAreApart(t *testing.T) {
 	manyModules(7, func(d *dice, m impl.Module) {
 		if text, ok := plainText(m); ok {
 			wantApart(t, m, impl.ParseModule(text))
+			wantNewTexts(t, text, impl.ParseModule(text))
+			wantNewTexts(t, text, impl.Tokens(text))
 		}
 	})
 }
