@@ -2,6 +2,7 @@ package impl
 
 import (
 	"cmp"
+	"math"
 	"slices"
 	"strconv"
 	"strings"
@@ -27,8 +28,8 @@ type Graph struct {
 	Nodes []Node
 }
 
-// allPairs is a limit that no walk over a valid graph comes to.
-const allPairs = MaxNodes * MaxNodes
+// noLimit is for a walk that ends only when nothing new is come to.
+const noLimit = math.MaxInt
 
 func ValidGraph(g Graph) bool {
 	if len(g.Nodes) > MaxNodes {
@@ -145,7 +146,7 @@ func Same(g Graph, a int, b int) bool {
 		return false
 	}
 	m := merger{g: g, leader: countUp(len(g.Nodes))}
-	return walk(pair{a, b}, allPairs, m.step)
+	return walk(pair{a, b}, noLimit, m.step)
 }
 
 func countUp(n int) []int {
@@ -193,13 +194,19 @@ func Sub(g Graph, a int, b int) bool {
 		return false
 	}
 	types, at := smallest(g, []int{a, b})
-	return walk(pair{at[0], at[1]}, allPairs, func(p pair, met *known[pair]) bool {
-		return subStep(types, p, met)
+	return willDo(types, at[0], at[1])
+}
+
+// willDo is Sub without limits. Where the graph has several nodes for one type,
+// it may go through more pairs than it needs to.
+func willDo(g Graph, a int, b int) bool {
+	return walk(pair{a, b}, noLimit, func(p pair, met *known[pair]) bool {
+		return subStep(g, p, met)
 	})
 }
 
-func subStep(types Graph, p pair, met *known[pair]) bool {
-	x, y := types.Nodes[p.first], types.Nodes[p.second]
+func subStep(g Graph, p pair, met *known[pair]) bool {
+	x, y := g.Nodes[p.first], g.Nodes[p.second]
 	if p.first == p.second || x.Kind == KAny || y.Kind == KAny {
 		return true
 	}
@@ -438,6 +445,11 @@ func mix(g Graph, a int, b int, meet bool) (Graph, int) {
 	if !ValidGraph(g) || !allNodes(g, []int{a, b}) {
 		return Graph{}, -1
 	}
+	return mixture(g, a, b, meet)
+}
+
+// mixture is Join or Meet without a limit on the nodes of the graph.
+func mixture(g Graph, a int, b int, meet bool) (Graph, int) {
 	types, at := smallest(g, []int{a, b})
 	m := mixer{types: types}
 	if !walk(mixed{pair{at[0], at[1]}, meet}, MaxPairs, m.step) {
