@@ -296,8 +296,10 @@ func demand(ok bool) {
 	}
 }
 
+var nameForm = regexp.MustCompile(`^[a-z][a-z0-9_]{0,11}\z`)
+
 func plainName(s string) bool {
-	return regexp.MustCompile(`^[a-z][a-z0-9_]{0,11}\z`).MatchString(s) && !slices.Contains(elevenWords, s)
+	return nameForm.MatchString(s) && !slices.Contains(elevenWords, s)
 }
 
 func plainNames(names []string, mod string, name string) {
