@@ -56,7 +56,7 @@ func TestSessionsAtTheSameTime(t *testing.T) {
 // A goroutine that has ended may still be counted for a moment.
 func wantGoroutines(t *testing.T, want int) {
 	t.Helper()
-	for range 200 {
+	for range 3000 {
 		if runtime.NumGoroutine() <= want {
 			return
 		}
